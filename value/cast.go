@@ -27,13 +27,15 @@ func Cast(v api.Value, t api.Type) (api.Value, api.Errno) {
 	return api.Value{Type: t, N: n}, api.OK
 }
 
-// castable reports whether values of one kind are converted to another one.
+// castable reports whether values of one kind are converted to another one, which is one of the five. What is of no kind is converted to nothing, to Text neither.
 func castable(from, to int) bool {
 	switch {
-	case from == to, from == api.Text, to == api.Text:
+	case from == api.Text:
 		return true
-	case from == api.Int && to == api.Dec, from == api.Dec && to == api.Int:
-		return true
+	case from == api.Int, from == api.Dec:
+		return to == api.Int || to == api.Dec || to == api.Text
+	case from == api.Bool, from == api.Date:
+		return to == from || to == api.Text
 	}
 	return false
 }

@@ -49,12 +49,13 @@ func TestP24TypeFirst(t *testing.T) {
 }
 
 func TestP24OfNoKind(t *testing.T) {
-	for _, kind := range []int{math.MinInt, -1, 0, 6, 9, math.MaxInt} {
-		v := api.Value{Type: api.Type{Kind: kind}, N: 1, S: "TRUE"}
-		for _, to := range []api.Type{boolType, intType, decType(0), dateType} {
-			expectCast(t, v, to, api.Value{}, api.ErrType)
+	for _, kind := range noKinds() {
+		for _, v := range []api.Value{{}, {N: 1}, {N: 5, S: "x"}, {S: "TRUE"}, {Null: true}, {Null: true, N: 5, S: "x"}, {Type: api.Type{Scale: 3}, N: 1}} {
+			v.Type.Kind = kind
+			for _, to := range validTypes() {
+				expectCast(t, v, to, api.Value{}, api.ErrType)
+			}
 		}
-		expectCast(t, v, textType, value.OfText("?"), api.OK)
 	}
 }
 
@@ -117,6 +118,10 @@ func TestP24ToItself(t *testing.T) {
 
 func TestP24ToText(t *testing.T) {
 	for _, v := range anyValues() {
+		if v.Type.Kind < api.Bool || v.Type.Kind > api.Date {
+			expectCast(t, v, textType, api.Value{}, api.ErrType)
+			continue
+		}
 		if v.Null {
 			expectCast(t, v, textType, value.None(textType), api.OK)
 			continue

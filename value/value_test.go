@@ -29,10 +29,15 @@ func validTypes() []api.Type {
 	return l
 }
 
+// noKinds are numbers of kinds that there are not.
+func noKinds() []int {
+	return []int{math.MinInt, -1, 0, 6, 7, 9, 99, math.MaxInt}
+}
+
 // invalidTypes are types that are not: of no kind, or with a scale that their kind does not have.
 func invalidTypes() []api.Type {
 	var l []api.Type
-	for _, kind := range []int{math.MinInt, -1, 0, 6, 7, 99, math.MaxInt} {
+	for _, kind := range noKinds() {
 		for _, scale := range []int{-1, 0, 1, 19} {
 			l = append(l, api.Type{Kind: kind, Scale: scale})
 		}
